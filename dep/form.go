@@ -38,12 +38,9 @@ func at(f Form, index int64) int64 {
 	return f.A*index + f.C
 }
 
-// moved: a form and a number, added. A sum that goes round isn't kept, since C is far from the ends of the words.
-func moved(f Form, by int64) Form {
-	if !f.Known {
-		return Form{}
-	}
-	return kept(f.A, f.C+by)
+// address: where an access of a register's form and its own number goes; that number is held to the same bounds as one in a register.
+func address(f Form, k int64) Form {
+	return ofTwo(api.OpAdd, f, number(k))
 }
 
 func ofOne(op api.Op, f Form) Form {

@@ -359,7 +359,7 @@ func addressed(t *testing.T, f Form, k int64, want Form) {
 	wantAccesses(t, l, Access{To: want}, Access{Store: true, To: want})
 }
 
-// P19.1: addresses, and those whose sum isn't kept
+// P19.1: addresses, and those whose number or whose sum isn't kept
 func TestAddresses(t *testing.T) {
 	for _, a := range []int64{0, 1, -5, two30, -two30} {
 		addressed(t, known(a, 3), 4, known(a, 7))
@@ -367,23 +367,45 @@ func TestAddresses(t *testing.T) {
 		for _, side := range []int64{1, -1} {
 			addressed(t, known(a, 0), side*two60, known(a, side*two60))
 			addressed(t, known(a, side*two60), 0, known(a, side*two60))
-			addressed(t, known(a, 0), side*(two60+1), Form{})
 			addressed(t, known(a, side), side*two60, Form{})
 			addressed(t, known(a, side*two60), side, Form{})
 			addressed(t, known(a, side*two60), -side, known(a, side*(two60-1)))
 			addressed(t, known(a, side*two60), -side*two60, known(a, 0))
 			addressed(t, known(a, side), -side*two60, known(a, -side*(two60-1)))
-			// K is a number that stands there: the sum alone has to be kept
-			addressed(t, known(a, -side), side*(two60+1), known(a, side*two60))
-			addressed(t, known(a, -side*two60), side*2*two60, known(a, side*two60))
-			addressed(t, known(a, -side*two60), side*(2*two60+1), Form{})
-			addressed(t, known(a, -side*(two60-1)), side*2*two60, Form{})
-			// a sum that goes round
-			addressed(t, known(a, side*two60), math.MaxInt64, Form{})
-			addressed(t, known(a, side*two60), math.MinInt64, Form{})
+			addressed(t, known(a, side*two60), side*two60, Form{})
 		}
 	}
 	for _, k := range []int64{0, 1, -1, two60, -two60, math.MaxInt64, math.MinInt64} {
 		addressed(t, Form{}, k, Form{})
+	}
+}
+
+// P19.1: a number K that isn't kept isn't known, also where B brings the sum back to what would be kept
+func TestFarK(t *testing.T) {
+	for _, a := range []int64{0, 1, -5, two30, -two30} {
+		for _, side := range []int64{1, -1} {
+			for _, by := range []int64{1, 5, two30, two60 - 1, two60, two60 + 1} {
+				for _, c := range []int64{0, 1, min(by, two60), two60 - 1, two60} {
+					addressed(t, known(a, -side*c), side*(two60+by), Form{})
+					addressed(t, known(a, side*c), side*(two60+by), Form{})
+				}
+			}
+			addressed(t, known(a, side*two60), math.MaxInt64, Form{})
+			addressed(t, known(a, side*two60), math.MinInt64, Form{})
+		}
+	}
+}
+
+// P19.1: an address is what comes of B and K by OpAdd, for all forms of the pool
+func TestAddressIsSum(t *testing.T) {
+	ks := []int64{0, 1, -1, 64, two30, -two30 - 1, two60 - 1, two60, two60 + 1, 1 - two60, -two60, -two60 - 1, 1 << 61, -1 << 61, math.MaxInt64, math.MinInt64}
+	for _, f := range pool() {
+		for _, k := range ks {
+			l := append(making(3, f), constant(4, k), two(api.OpAdd, 5, 3, 4), api.Ins{Kind: api.InsStore, B: 5}, api.Ins{Kind: api.InsStore, B: 3, K: k}, api.Ins{Kind: api.InsLoad, A: 6, B: 3, K: k}, api.Ins{Kind: api.InsHalt})
+			got, ok := Accesses(l, 0)
+			if !ok || len(got) != 3 || got[1] != got[0] || got[2] != (Access{To: got[0].To}) {
+				t.Fatalf("%v and %d: %v %v", f, k, got, ok)
+			}
+		}
 	}
 }

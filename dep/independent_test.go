@@ -395,6 +395,20 @@ func TestGreatAddresses(t *testing.T) {
 	}
 }
 
+// P19.3: an address isn't known whose K isn't kept, though each task would go to a word that there is
+func TestFarKIsNotKnown(t *testing.T) {
+	for _, kind := range []api.InsKind{api.InsLoad, api.InsStore} {
+		for _, side := range []int64{1, -1} {
+			for _, over := range []int64{0, 1, 5} {
+				l := append(making(5, known(1, over-side*two60)), api.Ins{Kind: kind, A: 3, B: 5, K: side * two60}, api.Ins{Kind: api.InsHalt})
+				wantJudged(t, jobOf(loop(0, 8, 1), l), roomy(t), over == 0 || side > 0)
+				l = append(making(5, known(1, -side*two60)), api.Ins{Kind: kind, A: 3, B: 5, K: side*two60 + over}, api.Ins{Kind: api.InsHalt})
+				wantJudged(t, jobOf(loop(0, 8, 1), l), roomy(t), over == 0 || side < 0)
+			}
+		}
+	}
+}
+
 // broken: a job with each of its faults, in Valid's order, and the error of the first one.
 func broken(t *testing.T) []struct {
 	turn func(j *api.Job)

@@ -48,10 +48,7 @@ func bigAccesses(l []api.Ins) ([]Access, bool) {
 		case api.InsTwo:
 			now[x.A], goesOn = bigTwo(x.Op, now[x.B], now[x.C])
 		case api.InsLoad, api.InsStore:
-			var to Form
-			if b := now[x.B]; b.Known {
-				to = wide(big.NewInt(b.A), new(big.Int).Add(big.NewInt(b.C), big.NewInt(x.K)))
-			}
+			to, _ := bigTwo(api.OpAdd, now[x.B], wide(new(big.Int), big.NewInt(x.K)))
 			all = append(all, Access{Store: x.Kind == api.InsStore, To: to})
 			if x.Kind == api.InsLoad {
 				now[x.A] = Form{}
